@@ -227,7 +227,7 @@ func (c *context) signed(n api.Node, s api.Scheme) (binding, bool) {
 	var numbered []int
 	for i, v := range vars {
 		numbered = append(numbered, v.Var)
-		c.fixed[v.Var] = fixes[i].Con
+		c.fixed[v.Var] = fixedType{fixes[i].Con}
 	}
 	dicts := evterms.Types(put(s.Preds, vars))
 	whole := terms.Fun(dicts, ftypes.Put(s.Type, numbers(s.N), vars))

@@ -12,10 +12,13 @@ type context struct {
 	env     api.Env
 	names   map[string][]*entry
 	entered []*entry
-	watched []*entry       // those whose schemes may have free variables, or fixed types
-	waiting int            // how many predicates wait
-	fixed   map[int]string // the fixed types for which variables of signed bindings stand
+	watched []*entry          // those whose schemes may have free variables, or fixed types
+	waiting int               // how many predicates wait
+	fixed   map[int]fixedType // for which variables of signed bindings stand
 }
+
+// fixedType is one of the state's.
+type fixedType struct{ con string }
 
 // entry is a name of a scheme; or one of a group that is not told yet, and its place there.
 type entry struct {
@@ -27,7 +30,7 @@ type entry struct {
 }
 
 func newContext(env api.Env, l []api.Entry) *context {
-	c := &context{State: istate.New(), env: env, names: map[string][]*entry{}, fixed: map[int]string{}}
+	c := &context{State: istate.New(), env: env, names: map[string][]*entry{}, fixed: map[int]fixedType{}}
 	for _, x := range l {
 		c.enter(&entry{name: x.Name, scheme: x.Scheme})
 	}

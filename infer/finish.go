@@ -32,7 +32,7 @@ func inLet(b api.Term) api.Term {
 
 // plainer puts variables in the place of fixed types, and Int in that of variables that nobody around binds.
 type plainer struct {
-	fixed map[int]string
+	fixed map[int]fixedType
 	bound map[int]int
 	stand map[string]int // the variables that stand for fixed types here
 }
@@ -41,8 +41,8 @@ func (p *plainer) term(t api.Term) api.Term {
 	if t.Kind == api.TermAll || t.Kind == api.TermBind {
 		for _, v := range t.Vars {
 			p.bound[v]++
-			if con, ok := p.fixed[v]; ok {
-				p.stand[con] = v
+			if x, ok := p.fixed[v]; ok {
+				p.stand[x.con] = v
 			}
 		}
 	}
@@ -56,8 +56,8 @@ func (p *plainer) term(t api.Term) api.Term {
 	if t.Kind == api.TermAll || t.Kind == api.TermBind {
 		for _, v := range t.Vars {
 			p.bound[v]--
-			if con, ok := p.fixed[v]; ok {
-				delete(p.stand, con)
+			if x, ok := p.fixed[v]; ok {
+				delete(p.stand, x.con)
 			}
 		}
 	}
