@@ -191,6 +191,34 @@ func TestSound(t *testing.T) {
 	}
 }
 
+// TestFollows: what follows from what is given follows from what that follows from.
+func TestFollows(t *testing.T) {
+	r := rand.New(rand.NewSource(9))
+	types := []string{"a", "b", "L a", "L (L b)", "Int", "L Int", "P a Int", "P (L a) b", "!0"}
+	names := []string{"Eq", "Ord", "Show", "Num"}
+	some := func() []api.Pred {
+		var l []api.Pred
+		for range 1 + r.Intn(3) {
+			l = append(l, pred(names[r.Intn(len(names))], types[r.Intn(len(types))]))
+		}
+		return l
+	}
+	found := 0
+	for range 30000 {
+		first, second, third := some(), some(), some()
+		if !Implies(env, first, second) || !Implies(env, second, third) {
+			continue
+		}
+		found++
+		if !Implies(env, first, third) {
+			t.Fatal(first, second, third)
+		}
+	}
+	if found < 30 {
+		t.Error(found)
+	}
+}
+
 func TestMemoryIsNew(t *testing.T) {
 	p := pred("Eq", "L (L Int)")
 	proof, _ := By(env, nil, p)

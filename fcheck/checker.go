@@ -64,8 +64,8 @@ func whole(p api.Poly) (api.Poly, error) {
 	return p, nil
 }
 
-// at tells a type with types in the place of its variables.
-func at(p api.Poly, types []api.Type) (api.Poly, error) {
+// instantiated tells a type with types in the place of its variables.
+func instantiated(p api.Poly, types []api.Type) (api.Poly, error) {
 	if len(p.Vars) != len(types) {
 		return api.Poly{}, count{"the type"}
 	}
@@ -105,13 +105,13 @@ func (c *checker) term(t api.Term) (api.Poly, error) {
 		if err != nil {
 			return api.Poly{}, err
 		}
-		return at(p, t.Types)
+		return instantiated(p, t.Types)
 	case api.TermCon:
 		p, ok := fsigs.Con(c.env, t.Name)
 		if !ok {
 			return api.Poly{}, notThere{t.Name}
 		}
-		return at(p, t.Types)
+		return instantiated(p, t.Types)
 	case api.TermCase:
 		return c.choice(t)
 	case api.TermLet:

@@ -164,7 +164,7 @@ func (c *context) close(g *group, types []api.Type, bodies []api.Term, f *found,
 		for _, v := range b.Vars {
 			own = append(own, api.Type{Var: v})
 		}
-		c.Fill(u.hole, to(at(api.Term{Kind: api.TermVar, Name: b.Name}, own), args))
+		c.Fill(u.hole, applied(instantiated(api.Term{Kind: api.TermVar, Name: b.Name}, own), args))
 	}
 	return all
 }

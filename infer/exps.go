@@ -64,16 +64,16 @@ func numbers(n int) []int {
 	return l
 }
 
-// at tells a term at types, if there are any.
-func at(t api.Term, types []api.Type) api.Term {
+// instantiated tells a term at types, if there are any.
+func instantiated(t api.Term, types []api.Type) api.Term {
 	if len(types) == 0 {
 		return t
 	}
 	return api.Term{Kind: api.TermInst, Types: types, Kids: []api.Term{t}}
 }
 
-// to tells a term applied to each of l.
-func to(t api.Term, l []api.Term) api.Term {
+// applied tells a term applied to each of l.
+func applied(t api.Term, l []api.Term) api.Term {
 	for _, x := range l {
 		t = api.Term{Kind: api.TermApp, Kids: []api.Term{t, x}}
 	}
@@ -105,7 +105,7 @@ func (c *context) ofScheme(t api.Term, s api.Scheme, pos int) (api.Type, api.Ter
 	for _, p := range s.Preds {
 		holes = append(holes, c.wait(api.Pred{Class: p.Class, Type: ftypes.Put(p.Type, own, vars)}, pos))
 	}
-	return ftypes.Put(s.Type, own, vars), to(at(t, vars), holes), true
+	return ftypes.Put(s.Type, own, vars), applied(instantiated(t, vars), holes), true
 }
 
 func (c *context) method(class api.Class, place, pos int) (api.Type, api.Term, bool) {
@@ -116,7 +116,7 @@ func (c *context) method(class api.Class, place, pos int) (api.Type, api.Term, b
 	vars := c.variables(1 + max(m.N, 0))
 	hole := c.wait(api.Pred{Class: class.Name, Type: vars[0]}, pos)
 	t := api.Term{Kind: api.TermProj, Name: class.Name, N: len(class.Supers) + place, Kids: []api.Term{hole}}
-	return ftypes.Put(m.Type, numbers(len(vars)), vars), at(t, vars[1:]), true
+	return ftypes.Put(m.Type, numbers(len(vars)), vars), instantiated(t, vars[1:]), true
 }
 
 func (c *context) apply(n api.Node) (api.Type, api.Term, bool) {
@@ -132,7 +132,7 @@ func (c *context) apply(n api.Node) (api.Type, api.Term, bool) {
 	if !c.Unify(f, fun(t, r), n.Pos) {
 		return nothing(false)
 	}
-	return r, to(g, []api.Term{x}), true
+	return r, applied(g, []api.Term{x}), true
 }
 
 func (c *context) lambda(n api.Node) (api.Type, api.Term, bool) {
