@@ -107,6 +107,37 @@ func TestFunSplit(t *testing.T) {
 	}
 }
 
+// odd is a -> that is no term, for its Var.
+func odd(n int, from, to api.Type) api.Type {
+	return api.Type{Con: "->", Var: n, Args: []api.Type{from, to}}
+}
+
+func TestSplitOfNoTerm(t *testing.T) {
+	for _, n := range []int{-1, 1, 5, math.MinInt, math.MaxInt} {
+		in := odd(n, v(1), odd(n, c("T", v(2)), v(3)))
+		if Legal(in) {
+			t.Error("a term", n)
+		}
+		l, to := Split(Fun([]api.Type{v(0)}, in))
+		if len(l) != 3 || !Same(l[0], v(0)) || !Same(l[1], v(1)) || !Same(l[2], c("T", v(2))) || !Same(to, v(3)) {
+			t.Error(n, l, to)
+		}
+		l[2].Args[0].Var = 9
+		if in.Args[1].Args[0].Args[0].Var != 2 {
+			t.Error("memory is shared")
+		}
+		in = odd(n, odd(n, v(1), v(2)), v(3))
+		if l, to := Split(in); len(l) != 1 || !Same(l[0], in.Args[0]) || !Same(to, v(3)) {
+			t.Error("a -> to the left", n, l, to)
+		}
+	}
+	for i, x := range []api.Type{c("->"), c("->", v(0)), c("->", v(0), v(1), v(2)), c("T", v(0), v(1)), {Var: -1, Args: []api.Type{v(0), v(1)}}} {
+		if l, to := Split(x); len(l) != 0 || !Same(to, x) {
+			t.Error("no ->", i, l, to)
+		}
+	}
+}
+
 func TestText(t *testing.T) {
 	for s, x := range map[string]api.Type{
 		"a -> T ?0":              c("->", v(0), c("T", v(-1))),
